@@ -96,6 +96,52 @@ func TestErrorsOfSend(t *testing.T) {
 	n.wantQueue(1)
 }
 
+// What a Send, a Fetch or an Ack asks for is not done, and no error behind ErrAuth is told, without a session that is good.
+func TestLettersNeedASession(t *testing.T) {
+	n := pair(t, small)
+	n.want(0, both("1"), api.OK)
+	conn := n.connect()
+	wantRefused := func() {
+		t.Helper()
+		for _, q := range []api.Request{both("x"), send(1, "x"), send(2, "x"), send(3, "x"), send(255, "x", api.Claim{}), fetch(0, 255), fetch(9, 0), ack(0), ack(255)} {
+			n.want(conn, q, api.ErrAuth)
+		}
+	}
+	wantRefused()
+	n.settle(conn, 2, 0)
+	n.want(conn, remove(0), api.OK)
+	wantRefused()
+	n.wantQueue(1, 1)
+	n.wantQueue(2, 1)
+}
+
+// A spent device is told ahead of a full queue, whichever of them comes first.
+func TestSpentAheadOfQuota(t *testing.T) {
+	c := small
+	c.Queue, c.Cursors = 2, 3
+	for spent := range 2 {
+		full := 1 - spent
+		n := connected(t, c, 3)
+		n.settle(1, 1, spent)
+		n.want(1, send(1, "1", api.Claim{Device: spent, Reg: 10 + spent}), api.OK)
+		n.want(1, ack(1), api.OK)
+		n.want(1, register(1, full, 10+full), api.OK)
+		all := func(text string) api.Request {
+			return send(1, text, api.Claim{Device: 0, Reg: 10}, api.Claim{Device: 1, Reg: 11})
+		}
+		n.want(1, all("2"), api.OK)
+		n.want(1, all("3"), api.OK)
+		n.want(1, all("x"), api.ErrSpent) // both queues are full, and one has a cursor left
+		n.want(1, ack(3), api.OK)
+		n.want(1, all("x"), api.ErrSpent)
+		n.want(2, login(2, 1, full), api.OK)
+		n.want(2, ack(1), api.OK)
+		n.want(1, all("x"), api.ErrSpent)
+		n.want(2, remove(spent), api.OK)
+		n.want(2, send(1, "4", api.Claim{Device: full, Reg: 10 + full}), api.OK)
+	}
+}
+
 // The last cursor that a device may give is Cursors; Ack does not bring one back.
 func TestSpent(t *testing.T) {
 	c := small
@@ -234,6 +280,53 @@ func TestTimeGoesByWithinASend(t *testing.T) {
 	n.want(0, both("3"), api.OK)
 	n.wantQueue(1, 3)
 	n.wantQueue(2, 3)
+}
+
+// Between the decision and the last device a letter may come to its end: it is in no queue then, takes no room, and its cursor is gone in all of them.
+func TestLetterThatEndsOnItsWay(t *testing.T) {
+	c := small
+	c.Queue = 1
+	for devices := range 2 { // that have it by then
+		for _, lives := range []bool{true, false} {
+			n := pair(t, c)
+			n.ask(0, both("1"))
+			n.steps(0, moved, moved, moved, moved, moved)
+			for range devices {
+				n.steps(0, moved)
+			}
+			n.ticks(c.Life - 1)
+			if !lives {
+				n.Tick()
+			}
+			n.finish(0)
+			if l := n.replies(0); !sameReply(l[len(l)-1], api.Reply{Kind: api.Send}) {
+				t.Fatalf("P10: the reply to a Send whose letter ends on its way: %+v, want OK", l[len(l)-1])
+			}
+			if lives {
+				n.wantQueue(1, 1)
+				n.wantQueue(2, 1)
+				n.want(0, both("x"), api.ErrQuota)
+				n.Tick()
+			}
+			n.wantQueue(1)
+			n.wantQueue(2)
+			n.want(0, both("2"), api.OK)
+			n.wantQueue(1, 2)
+			n.wantQueue(2, 2)
+		}
+	}
+}
+
+// A letter that ends on its way spends its cursors all the same.
+func TestCursorOfALetterThatEndsOnItsWay(t *testing.T) {
+	c := small
+	c.Cursors = 1
+	n := pair(t, c)
+	n.ask(0, both("1"))
+	n.steps(0, moved, moved, moved, moved, moved)
+	n.ticks(c.Life)
+	n.finish(0)
+	n.want(0, both("x"), api.ErrSpent)
 }
 
 // The quota is asked for when the Send decides, not when it was taken.

@@ -3,6 +3,7 @@ package rookery_test
 import (
 	"math/rand"
 	"reflect"
+	"slices"
 	"testing"
 
 	"rookery/api"
@@ -162,6 +163,202 @@ func TestPickedInTurn(t *testing.T) {
 			if got := len(n.replies(conn)) - start[conn]; got != requests {
 				t.Fatalf("P12: seed %d: the connection %d has %d replies, want %d", seed, conn, got, requests)
 			}
+		}
+	}
+}
+
+// crowd is a nest in which the account 1 has three devices, whose sessions the connections 0 to 2 have, and the accounts 0 and 2 have a device each, with the connections 3 and 4.
+func crowd(t *testing.T, c api.Config) *nest {
+	t.Helper()
+	n := connected(t, c, 5)
+	n.settle(0, 1, 0)
+	for device := 1; device < 3; device++ {
+		n.want(0, register(1, device, 10+device), api.OK)
+		n.want(device, login(device, 1, device), api.OK)
+	}
+	n.settle(3, 0, 0)
+	n.settle(4, 2, 0)
+	return n
+}
+
+// someLetter is a Send to the account 1 of a crowd; of some the claims are wrong.
+func (c *chance) someLetter(text string) api.Request {
+	claims := []api.Claim{{Device: 0, Reg: 10}, {Device: 1, Reg: 11}, {Device: 2, Reg: 12}}
+	switch c.Intn(6) {
+	case 0:
+		claims = claims[:2]
+	case 1:
+		claims[2].Reg++
+	}
+	return send(1, text, claims...)
+}
+
+// sendAll lets all connections of a crowd send one letter each, picked by chance, with time between the picks: the texts that are OK, in the order in which their Sends ended.
+func (c *chance) sendAll(n *nest, ticks int) []string {
+	n.t.Helper()
+	for conn := range n.conns {
+		n.ask(conn, c.someLetter(string(rune('a'+conn))))
+	}
+	var sent []string
+	left := n.conns
+	for range 10000 {
+		if left == 0 {
+			return sent
+		}
+		if c.Intn(20) == 0 && ticks > 0 {
+			n.Tick()
+			ticks--
+		}
+		conn := c.Intn(n.conns)
+		if got, _ := n.Pick(conn); got != ended {
+			continue
+		}
+		left--
+		if l := n.replies(conn); l[len(l)-1].Err == api.OK {
+			sent = append(sent, string(rune('a'+conn)))
+		}
+	}
+	n.t.Fatalf("P12: 10000 picks, and %d Sends have not ended", left)
+	return nil
+}
+
+// A letter is in all queues or, if its Send has an error, in none, and all queues have the letters in one order, whoever is picked, and when time goes by too.
+func TestQueuesAreTheSame(t *testing.T) {
+	for seed := range int64(300) {
+		c := &chance{Rand: rand.New(rand.NewSource(seed))}
+		config := small
+		config.Life = 6
+		n := crowd(t, config)
+		sent := c.sendAll(n, config.Life-1)
+		for tick := range 2 * config.Life {
+			var queues [3][]api.Letter
+			for conn := range queues {
+				queues[conn] = n.serve(conn, fetch(0, 255)).Letters
+			}
+			if !slices.Equal(queues[0], queues[1]) || !slices.Equal(queues[0], queues[2]) {
+				t.Fatalf("P12: seed %d: the queues are %+v", seed, queues)
+			}
+			if tick == 0 {
+				wantTexts(t, queues[0], sent)
+			}
+			n.Tick()
+		}
+	}
+}
+
+// wantTexts asks for letters of these texts, with the cursors from 1 on.
+func wantTexts(t *testing.T, letters []api.Letter, texts []string) {
+	t.Helper()
+	for i, l := range letters {
+		if i >= len(texts) || l.Text != texts[i] || l.Cursor != i+1 {
+			t.Fatalf("P12: the letters are %+v, want %v", letters, texts)
+		}
+	}
+	if len(letters) != len(texts) {
+		t.Fatalf("P12: the letters are %+v, want %v", letters, texts)
+	}
+}
+
+// Nobody sees a letter in one queue and not in another: who fetches ahead of the last step of a Send waits for it.
+func TestLetterIsSeenInAllQueues(t *testing.T) {
+	for steps := range 8 { // of the Send: a lock of its own, three of the account, the decision, three devices
+		n := crowd(t, small)
+		n.ask(3, send(1, "1", api.Claim{Device: 0, Reg: 10}, api.Claim{Device: 1, Reg: 11}, api.Claim{Device: 2, Reg: 12}))
+		for range steps {
+			n.steps(3, moved)
+		}
+		for conn := range 3 {
+			n.ask(conn, fetch(0, 255))
+			if steps > 1+conn {
+				n.steps(conn, blocked)
+			} else {
+				n.steps(conn, moved, ended)
+			}
+		}
+		n.finish(3)
+		for conn := range 3 {
+			if steps > 1+conn {
+				n.steps(conn, moved, ended)
+				l := n.replies(conn)
+				wantTexts(t, l[len(l)-1].Letters, []string{"1"})
+			}
+			n.wantQueue(conn, 1)
+		}
+	}
+}
+
+// The stream has letters, which are sent, fetched and dropped: it is cut at any two places.
+func TestLettersOfAStreamCutAnywhere(t *testing.T) {
+	me, other := api.Claim{Device: 0, Reg: 7}, api.Claim{Device: 1}
+	var stream string
+	for _, q := range []api.Request{
+		register(0, 0, 7), login(0, 0, 0), send(0, "\x00\x02\x03\x00", me), send(0, "b", me, other), send(0, "c", me), fetch(0, 1), ack(1), fetch(0, 9),
+	} {
+		stream += frame(t, q)
+	}
+	want := []api.Reply{
+		{Kind: api.Register}, {Kind: api.Login}, {Kind: api.Send}, {Kind: api.Send, Err: api.ErrMismatch, Extra: []int{1}}, {Kind: api.Send},
+		{Kind: api.Fetch, Letters: []api.Letter{{Cursor: 1, Text: "\x00\x02\x03\x00"}}, More: true}, {Kind: api.Ack},
+		{Kind: api.Fetch, Letters: []api.Letter{{Cursor: 2, Text: "c"}}},
+	}
+	for i := range len(stream) + 1 {
+		for j := i; j <= len(stream); j++ {
+			_, got := answers(t, stream[:i], stream[i:j], stream[j:])
+			wantAnswers(t, got, want)
+		}
+	}
+}
+
+// Sends that cross, each to the account of the next one, do not wait for one another in a ring.
+func TestSendsThatCross(t *testing.T) {
+	n := connected(t, small, 3)
+	for conn := range 3 {
+		n.settle(conn, conn, 0)
+	}
+	for conn := range 3 { // 0 to 1, 1 to 2, 2 to 0
+		to := (conn + 1) % 3
+		n.ask(conn, send(to, "x", api.Claim{Device: 0, Reg: 10 * to}))
+	}
+	const most = 3 * 6 // each has four locks, the decision and one device, and one at least goes on in each round
+	ends := 0
+	for range most {
+		for conn := range 3 {
+			if got, _ := n.Pick(conn); got == ended {
+				ends++
+			}
+		}
+	}
+	if ends != 3 {
+		t.Fatalf("P12: %d of 3 Sends have ended when each was picked %d times", ends, most)
+	}
+	for conn := range 3 {
+		from := (conn + 2) % 3
+		n.wantServed(conn, fetch(0, 9), api.Reply{Letters: []api.Letter{{Cursor: 1, Account: from, Device: 0, Text: "x"}}})
+	}
+}
+
+// One request ends, though all others ask for the same places again and again, as long as each is picked in turn.
+func TestNobodyWaitsForEver(t *testing.T) {
+	hello := send(1, "x", api.Claim{Device: 0, Reg: 10}, api.Claim{Device: 1, Reg: 11}, api.Claim{Device: 2, Reg: 12})
+	config := small
+	config.Life, config.Cursors = 1, api.MaxCursors // so that no Send is cut short
+	for _, q := range []api.Request{register(1, 0, 1), login(2, 1, 2), remove(9), hello, fetch(0, 9), ack(0)} {
+		n := crowd(t, config)
+		const patient = 2
+		others := []int{0, 1, 3, 4}
+		before := len(n.replies(patient))
+		n.ask(patient, q)
+		// each of the others may be ahead once for each of the four places, with eight steps and those it waits for
+		for range 4 * len(others) * 8 * n.conns {
+			for _, conn := range others {
+				n.ask(conn, hello)
+				n.Pick(conn)
+			}
+			n.Pick(patient)
+			n.Tick()
+		}
+		if got := len(n.replies(patient)); got != before+1 {
+			t.Errorf("P12: picked in turn, and %+v has not ended", q)
 		}
 	}
 }
